@@ -1054,6 +1054,25 @@ func TestInvalidCircuits(t *testing.T) {
 	}
 }
 
+// expectNewCircuits checks that a call returns gates that share no memory with
+// those that it returns another time.
+func expectNewCircuits(t *testing.T, name string, call func() (impl.Circuit, bool)) {
+	t.Helper()
+	result, ok := call()
+	if !ok {
+		t.Fatalf("%s returned false", name)
+	}
+	want := slices.Clone(result)
+	other, _ := call()
+	for i := range result[:cap(result)] {
+		result[:cap(result)][i] = impl.Gate{Kind: -8, A: -8, B: -8}
+	}
+	third, _ := call()
+	if !slices.Equal(other, want) || !slices.Equal(third, want) {
+		t.Errorf("%s: another result changed: %v, %v", name, other, third)
+	}
+}
+
 func TestCircuitsShareNoMemory(t *testing.T) {
 	junk := impl.Gate{Kind: -7, A: -7, B: -7}
 	full := impl.Circuit{unknownGate(0), unknownGate(1), sumGate(0, 1), productGate(2, 2), junk, junk, junk, junk, junk, junk}
@@ -1071,19 +1090,7 @@ func TestCircuitsShareNoMemory(t *testing.T) {
 		"CircuitOf 0":                 func() (impl.Circuit, bool) { return impl.CircuitOf(5, f[:0]) },
 	}
 	for name, call := range calls {
-		result, ok := call()
-		if !ok {
-			t.Fatalf("%s returned false", name)
-		}
-		want := slices.Clone(result)
-		other, _ := call()
-		for i := range result[:cap(result)] {
-			result[:cap(result)][i] = impl.Gate{Kind: -8, A: -8, B: -8}
-		}
-		third, _ := call()
-		if !slices.Equal(other, want) || !slices.Equal(third, want) {
-			t.Errorf("%s: another result changed: %v, %v", name, other, third)
-		}
+		expectNewCircuits(t, name, call)
 	}
 	numbers := map[string]func() []int{
 		"EvalGates": func() []int { return impl.EvalGates(5, c, [3]int{1, 2, 3}) },

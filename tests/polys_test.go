@@ -498,21 +498,26 @@ func TestScaledPolys(t *testing.T) {
 	}
 }
 
+// derivedPlain returns the derivative of a polynomial by an unknown.
+func derivedPlain(f impl.Poly, v int) plain {
+	result := plain{}
+	for _, term := range f {
+		if k := term.Powers; k[v] > 0 {
+			k[v]--
+			result[k] = term.Times * term.Powers[v]
+		}
+	}
+	return result
+}
+
 func TestDerivatives(t *testing.T) {
 	d := draw(9)
 	for _, p := range primes {
 		for n := range 300 {
 			f := d.poly(p, n%61, 9)
 			for v := range 3 {
-				want := plain{}
-				for _, term := range f {
-					if k := term.Powers; k[v] > 0 {
-						k[v]--
-						want[k] = term.Times * term.Powers[v]
-					}
-				}
 				got, ok := impl.DerivePoly(p, f, v)
-				expectPlain(t, "DerivePoly", p, got, ok, want)
+				expectPlain(t, "DerivePoly", p, got, ok, derivedPlain(f, v))
 			}
 		}
 		for v := range 3 {
