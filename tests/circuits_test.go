@@ -1054,23 +1054,14 @@ func TestInvalidCircuits(t *testing.T) {
 	}
 }
 
-// expectNewCircuits checks that a call returns gates that share no memory with
-// those that it returns another time.
 func expectNewCircuits(t *testing.T, name string, call func() (impl.Circuit, bool)) {
 	t.Helper()
-	result, ok := call()
-	if !ok {
-		t.Fatalf("%s returned false", name)
-	}
-	want := slices.Clone(result)
-	other, _ := call()
-	for i := range result[:cap(result)] {
-		result[:cap(result)][i] = impl.Gate{Kind: -8, A: -8, B: -8}
-	}
-	third, _ := call()
-	if !slices.Equal(other, want) || !slices.Equal(third, want) {
-		t.Errorf("%s: another result changed: %v, %v", name, other, third)
-	}
+	expectNew(t, name, impl.Gate{Kind: -8, A: -8, B: -8}, call)
+}
+
+func expectNewNumbers(t *testing.T, name string, call func() []int) {
+	t.Helper()
+	expectNew(t, name, -8, func() ([]int, bool) { return call(), true })
 }
 
 func TestCircuitsShareNoMemory(t *testing.T) {
@@ -1097,14 +1088,7 @@ func TestCircuitsShareNoMemory(t *testing.T) {
 		"UsedGates": func() []int { return impl.UsedGates(5, c) },
 	}
 	for name, call := range numbers {
-		result, other := call(), call()
-		want := slices.Clone(result)
-		for i := range result[:cap(result)] {
-			result[:cap(result)][i] = -8
-		}
-		if third := call(); !slices.Equal(other, want) || !slices.Equal(third, want) {
-			t.Errorf("%s: another result changed: %v, %v", name, other, third)
-		}
+		expectNewNumbers(t, name, call)
 	}
 	result, _ := impl.PolyOfCircuit(5, c)
 	for i := range result[:cap(result)] {

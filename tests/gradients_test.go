@@ -179,7 +179,13 @@ func expectForward(t *testing.T, p int, c impl.Circuit, v int) bool {
 	t.Helper()
 	texts, end := forwardTexts(p, c, v)
 	got, ok := impl.ForwardOf(p, c, v)
-	name := "ForwardOf " + impl.FormatCircuit(p, c)
+	return expectUpTo(t, "ForwardOf "+impl.FormatCircuit(p, c), p, got, ok, texts, end)
+}
+
+// expectUpTo checks a result that has the gates of texts up to a place, but is
+// pruned; the element 0 for the place -1, and no gates if they are too many.
+func expectUpTo(t *testing.T, name string, p int, got impl.Circuit, ok bool, texts []string, end int) bool {
+	t.Helper()
 	if end >= 60 {
 		expectNoCircuit(t, name, got, ok)
 		return false

@@ -871,6 +871,30 @@ func TestInvalidPolys(t *testing.T) {
 	}
 }
 
+// expectNew checks that a call returns a slice that shares no memory with those
+// that it returns another time.
+func expectNew[S ~[]E, E comparable](t *testing.T, name string, junk E, call func() (S, bool)) {
+	t.Helper()
+	result, ok := call()
+	if !ok {
+		t.Fatalf("%s returned false", name)
+	}
+	want := slices.Clone(result)
+	other, _ := call()
+	for i := range result[:cap(result)] {
+		result[:cap(result)][i] = junk
+	}
+	third, _ := call()
+	if !slices.Equal(other, want) || !slices.Equal(third, want) {
+		t.Errorf("%s: another result changed: %v, %v", name, other, third)
+	}
+}
+
+func expectNewPolys(t *testing.T, name string, call func() (impl.Poly, bool)) {
+	t.Helper()
+	expectNew(t, name, impl.Term{Powers: powers{-8, -8, -8}, Times: -8}, call)
+}
+
 func TestPolysShareNoMemory(t *testing.T) {
 	junk := impl.Term{Powers: powers{-7, -7, -7}, Times: -7}
 	full := impl.Poly{{Powers: powers{1, 1, 0}, Times: 2}, {Powers: powers{0, 1, 0}, Times: 1}, {Times: 4}, junk, junk}
@@ -896,21 +920,9 @@ func TestPolysShareNoMemory(t *testing.T) {
 		"PutPoly in x":        func() (impl.Poly, bool) { return impl.PutPoly(5, impl.Poly{{Powers: powers{1, 0, 0}, Times: 1}}, 0, f) },
 	}
 	for name, call := range calls {
-		result, ok := call()
-		if !ok {
-			t.Fatalf("%s returned false", name)
-		}
-		want := slices.Clone(result)
-		other, _ := call()
-		for i := range result[:cap(result)] {
-			result[:cap(result)][i] = impl.Term{Powers: powers{-8, -8, -8}, Times: -8}
-		}
+		expectNewPolys(t, name, call)
 		if !slices.Equal(full, before) {
 			t.Fatalf("%s shares memory with its argument or changes it: %v", name, full)
-		}
-		third, _ := call()
-		if !slices.Equal(other, want) || !slices.Equal(third, want) {
-			t.Errorf("%s: another result changed: %v, %v", name, other, third)
 		}
 	}
 }
