@@ -922,14 +922,11 @@ func TestPathsAtTheSameTime(t *testing.T) {
 	calls.Wait()
 }
 
-// No call leaves a goroutine behind, also where nothing arrives at a node.
-func TestNodesAreJoined(t *testing.T) {
+// expectAllEnded checks that calls leave no goroutine behind.
+func expectAllEnded(t *testing.T, call func()) {
+	t.Helper()
 	before := runtime.NumGoroutine()
-	eachProgram(118, func(d *draw, p int, g impl.Program) {
-		impl.PathsPoly(p, g)
-		impl.PathsAt(p, g, d.point(p))
-		impl.CountPaths(p, g)
-	})
+	call()
 	// A goroutine that has been joined may need a moment to end.
 	for range 100 {
 		if runtime.NumGoroutine() <= before {
@@ -938,4 +935,15 @@ func TestNodesAreJoined(t *testing.T) {
 		time.Sleep(10 * time.Millisecond)
 	}
 	t.Errorf("there are %d goroutines, where there were %d", runtime.NumGoroutine(), before)
+}
+
+// No call leaves a goroutine behind, also where nothing arrives at a node.
+func TestNodesAreJoined(t *testing.T) {
+	expectAllEnded(t, func() {
+		eachProgram(118, func(d *draw, p int, g impl.Program) {
+			impl.PathsPoly(p, g)
+			impl.PathsAt(p, g, d.point(p))
+			impl.CountPaths(p, g)
+		})
+	})
 }
